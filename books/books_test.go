@@ -168,6 +168,7 @@ func TestP21_3(t *testing.T) {
 	b := fresh()
 	post(t, b, sale(day(2024, 1, 5), 100), 1, api.OK)
 	post(t, b, entry(day(2024, 2, 5), of(1200, 8, 4, 30), of(2100, 8, 4, -20), of(3100, 0, 0, -10)), 2, api.OK)
+	post(t, b, entry(day(2024, 2, 5), of(2200, 8, 4, 1), of(4100, 8, 4, -1)), 3, api.OK)
 	for _, x := range []struct{ have, want int64 }{
 		{b.Of(1200, 7), 100}, {b.Of(1200, 8), 30}, {b.Of(1200, 9), 0}, {b.Of(3100, 0), -10}, {b.Of(9, 7), 0}, {b.By(2100, 3), -100}, {b.By(2100, 4), -20}, {b.By(3100, 0), -10},
 		{b.By(2100, 7), 0}, {b.In(2100, month(2024, 1)), -100}, {b.In(2100, month(2024, 2)), -20}, {b.In(2100, 0), 0}, {b.In(2100, -1), 0}, {b.In(2100, 7), 0},
@@ -186,7 +187,7 @@ func TestP21_3(t *testing.T) {
 			t.Error(account, n, no)
 		}
 	}
-	want := []api.Balance{{Account: 1200, Debit: 130}, {Account: 2100, Credit: 120}, {Account: 3100, Credit: 10}}
+	want := []api.Balance{{Account: 1200, Debit: 130}, {Account: 2100, Credit: 120}, {Account: 2200, Debit: 1}, {Account: 3100, Credit: 10}, {Account: 4100, Credit: 1}}
 	if l := b.Trial(); !slices.Equal(l, want) {
 		t.Error(l)
 	}

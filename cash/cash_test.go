@@ -60,7 +60,7 @@ func TestP26_1(t *testing.T) {
 	for _, x := range []struct {
 		p    api.Payment
 		left int64
-	}{{plain(), 100}, {parts(60, 40), 0}, {parts(10, 20), 70}, {great, limit - 6}} {
+	}{{plain(), 100}, {api.Payment{Id: 1, Customer: 1, Day: 1, Amount: 1}, 1}, {parts(60, 40), 0}, {parts(10, 20), 70}, {great, limit - 6}} {
 		if Check(x.p) != api.OK || Left(x.p) != x.left {
 			t.Error(x, Left(x.p))
 		}
@@ -113,6 +113,9 @@ func TestP26_3(t *testing.T) {
 	if p != parts(10, 10) || x != i || !reflect.DeepEqual(y, entry(52, api.KindApply, of(1200, 3, 50), of(2200, 0, -50))) || e != api.OK {
 		t.Error(p, x, y, e)
 	}
+	if p, x, _, e := Back(parts(60, 0), paid(i, 60), 1, 60); p != plain() || x != i || e != api.OK {
+		t.Error(p, x, e)
+	}
 	p, y, e = Refund(parts(60, 0), 53, 40)
 	if p != parts(60, 40) || !reflect.DeepEqual(y, entry(53, api.KindRefund, of(1100, 0, -40), of(2200, 0, 40))) || e != api.OK {
 		t.Error(p, y, e)
@@ -154,7 +157,7 @@ func TestP26_4(t *testing.T) {
 		{u, 25, []api.Use{{Payment: 5, Invoice: 2, Amount: 20}, use(1, 5)}, api.OK}, {u, 20, []api.Use{{Payment: 5, Invoice: 2, Amount: 20}}, api.OK}, {u, 1, []api.Use{{Payment: 5, Invoice: 2, Amount: 1}}, api.OK},
 		{u, 30, []api.Use{{Payment: 5, Invoice: 2, Amount: 20}, use(1, 10)}, api.OK}, {u, 31, nil, api.ErrState}, {nil, 1, nil, api.ErrState}, {u, 0, nil, api.ErrArg}, {u, -1, nil, api.ErrArg},
 		{[]api.Use{use(1, 0), use(1, 9)}, 5, nil, api.ErrArg}, {[]api.Use{use(0, 5)}, 500, nil, api.ErrArg}, {[]api.Use{{Invoice: 1, Amount: 5}}, 5, nil, api.ErrArg},
-		{slices.Repeat([]api.Use{use(1, 1<<63-1)}, 3), 1<<63 - 1, []api.Use{use(1, 1<<63-1)}, api.OK},
+		{[]api.Use{use(1, 1), use(2, 1)}, 2, []api.Use{use(2, 1), use(1, 1)}, api.OK}, {slices.Repeat([]api.Use{use(1, 1<<63-1)}, 3), 1<<63 - 1, []api.Use{use(1, 1<<63-1)}, api.OK},
 	} {
 		before := slices.Clone(x.l)
 		l, e := Undo(x.l, x.n)

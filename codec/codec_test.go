@@ -93,8 +93,12 @@ func TestP15_2(t *testing.T) {
 			t.Error(x, b, e)
 		}
 	}
-	if b, e := Put("s", []api.Field{s(long.S[:8190])}); len(b) != 8192 || e != api.OK {
+	b, e := Put("s", []api.Field{s(long.S[:8190])})
+	if len(b) != 8192 || e != api.OK {
 		t.Error(len(b), e)
+	}
+	if r, e := Get("s", b); len(r) != 1 || e != api.OK {
+		t.Error(len(r), e)
 	}
 	for _, x := range []struct {
 		kinds, b string

@@ -80,7 +80,7 @@ func TestP27_2(t *testing.T) {
 		{[]api.Dun{dun(1, 2, 50)}, []api.Invoice{invoice(1)}, 70, api.Dunning{Duns: []api.Dun{dun(1, 3, 70)}, Notices: []api.Notice{notice(1, 3, 30)}}},
 		{[]api.Dun{dun(1, 2, 50)}, []api.Invoice{invoice(1)}, 130, api.Dunning{Lost: []uint64{1}}},
 		{[]api.Dun{dun(1, 2, 50)}, []api.Invoice{settled}, 130, api.Dunning{}}, {nil, []api.Invoice{invoice(1)}, 42, api.Dunning{}}, {nil, []api.Invoice{invoice(1)}, 5, api.Dunning{}}, {nil, nil, 1, api.Dunning{}},
-		{[]api.Dun{dun(1, 8, 50)}, []api.Invoice{invoice(1)}, 70, api.Dunning{Duns: []api.Dun{dun(1, 8, 50)}}},
+		{[]api.Dun{dun(1, 8, api.MaxDay)}, []api.Invoice{settled}, api.MaxDay, api.Dunning{}}, {[]api.Dun{dun(1, 8, 50)}, []api.Invoice{invoice(1)}, 70, api.Dunning{Duns: []api.Dun{dun(1, 8, 50)}}},
 		{[]api.Dun{dun(2, 1, 30)}, []api.Invoice{invoice(1), late, invoice(9)}, 50, api.Dunning{Duns: []api.Dun{dun(1, 2, 50), dun(2, 3, 50), dun(9, 2, 50)}, Notices: []api.Notice{notice(1, 2, 10), notice(2, 3, 30), notice(9, 2, 10)}}},
 		{[]api.Dun{dun(2, 1, 30), dun(9, 1, 45)}, []api.Invoice{invoice(1), late, invoice(9)}, 110, api.Dunning{Duns: []api.Dun{dun(1, 3, 110), dun(9, 3, 110)}, Notices: []api.Notice{notice(1, 3, 70), notice(9, 3, 70)}, Lost: []uint64{2}}},
 	} {

@@ -607,6 +607,32 @@ func TestP30_2Recognize(t *testing.T) {
 	do(t, g, balance(3100), amounts(-3100))
 }
 
+// TestP30_2Edges goes to the ends of the calendar, and down to amounts of 1.
+func TestP30_2Edges(t *testing.T) {
+	g := fresh(t)
+	do(t, g, plan(1, "p", 1, 1, 1), no(api.OK))
+	do(t, g, customer(7, "Ada"), no(api.OK))
+	do(t, g, subscribe(3, 7, 1, 1, 1), no(api.OK))
+	do(t, g, bill(3, 1), both([]uint64{1}, 1))
+	do(t, g, pay(7, 1, 1), both([]uint64{1, 1}, 0, 1))
+	do(t, g, credit(1, 1, 1, strings.Repeat("x", 200)), both([]uint64{1}, 1))
+	do(t, g, invoice(1), amounts(1, 1, 0, 0, 0, 0))
+	do(t, g, payment(1), amounts(1, 0, 0, 1))
+	do(t, g, refund(1, 1, 1), no(api.OK))
+	do(t, g, sell(3, 1, 1, 1), ids(2))
+	do(t, g, reach(2, 0, 1), no(api.OK))
+	do(t, g, recognize(3, 1), both([]uint64{2}, 1))
+	do(t, g, sell(3, 50, 5, 1), ids(3))
+	do(t, g, reach(3, 0, api.MaxMonth), no(api.OK))
+	do(t, g, closing(1), no(api.OK))
+	do(t, g, closing(api.MaxMonth-1), no(api.OK))
+	do(t, g, recognize(3, api.MaxMonth), both([]uint64{3}, 5))
+	do(t, g, closing(api.MaxMonth), no(api.OK))
+	do(t, g, dun(1), no(api.OK))
+	do(t, g, dun(api.MaxDay), api.Reply{Notices: []api.Notice{{Invoice: 2, Customer: 7, Stage: 3, Late: api.MaxDay - 31, Open: 1}, {Invoice: 3, Customer: 7, Stage: 3, Late: api.MaxDay - 80, Open: 5}}})
+	do(t, g, contract(3, 1), amounts(1, 1, 0, 1, api.MaxMonth, 0))
+}
+
 func TestP30_2Over(t *testing.T) {
 	g := started(t)
 	on := day(2024, 1, 1)

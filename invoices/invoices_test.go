@@ -90,7 +90,7 @@ func TestP24_3(t *testing.T) {
 		x, now api.Invoice
 		n      int64
 		e      api.Errno
-	}{{parts(0, 60, 0), parts(0, 60, 40), 40, api.OK}, {parts(0, 60, 10), parts(0, 60, 40), 30, api.OK}, {parts(0, 60, 40), api.Invoice{}, 0, api.ErrState}, {api.Invoice{}, api.Invoice{}, 0, api.ErrArg}} {
+	}{{parts(0, 60, 0), parts(0, 60, 40), 40, api.OK}, {parts(0, 60, 10), parts(0, 60, 40), 30, api.OK}, {parts(0, 99, 0), parts(0, 99, 1), 1, api.OK}, {parts(0, 60, 40), api.Invoice{}, 0, api.ErrState}, {api.Invoice{}, api.Invoice{}, 0, api.ErrArg}} {
 		if now, n, e := Lose(x.x); now != x.now || n != x.n || e != x.e {
 			t.Error(x, now, n, e)
 		}

@@ -38,7 +38,7 @@ func wrong() []api.Note {
 }
 
 func TestP25_1(t *testing.T) {
-	for _, n := range []api.Note{note(1), note(limit - 1), {Id: 1<<64 - 1, Invoice: 1<<64 - 1, Day: api.MaxDay, Amount: 5, Reason: strings.Repeat("x", 200)}} {
+	for _, n := range []api.Note{note(1), note(limit - 1), {Id: 1, Invoice: 1, Day: 1, Amount: 1}, {Id: 1<<64 - 1, Invoice: 1<<64 - 1, Day: api.MaxDay, Amount: 5, Reason: strings.Repeat("x", 200)}} {
 		if Check(n) != api.OK {
 			t.Error(n)
 		}

@@ -80,8 +80,12 @@ func TestP4_2(t *testing.T) {
 		t.Error(stamp, x, many, is)
 	}
 	other := put(t, 8, s)
+	var long []string // its leaves are all there, but no sheaf has so many bytes
+	for piece := range pieces(tally.Text(strings.Repeat("z", api.MaxSheaf+1))) {
+		long = append(long, leaves(t, 7, piece)...)
+	}
 	for i, l := range [][]string{
-		nil, {}, {""}, two[:1], two[1:], {two[0], other[1]}, {two[0], strings.Repeat("\x00", 64)},
+		nil, {}, {""}, long, two[:1], two[1:], {two[0], other[1]}, {two[0], strings.Repeat("\x00", 64)},
 		leaves(t, 7, "\x02ab\x01"),                              // the padding is not 0
 		leaves(t, 7, "\x32"+strings.Repeat("y", 47), "yyyz"),    // nor in the second leaf
 		leaves(t, 7, strings.Repeat("\x80", 48), "\x00"),        // no length

@@ -23,7 +23,7 @@ func TestP10_1(t *testing.T) {
 	}{
 		{100, []int64{1, 1, 1}, []int64{34, 33, 33}}, {5, []int64{3, 3, 1}, []int64{2, 2, 1}}, {0, []int64{0, 2}, []int64{0, 0}},
 		{10, []int64{0, 1, 0, 1}, []int64{0, 5, 0, 5}}, {1, []int64{1, 1}, []int64{1, 0}}, {1000, []int64{31, 29, 31}, []int64{341, 319, 340}},
-		{limit - 1, []int64{limit - 1}, []int64{limit - 1}}, {limit - 1, []int64{1, limit - 2}, []int64{1, limit - 2}},
+		{5, []int64{1}, []int64{5}}, {limit - 1, []int64{limit - 1}, []int64{limit - 1}}, {limit - 1, []int64{1, limit - 2}, []int64{1, limit - 2}},
 	} {
 		before := slices.Clone(x.weights)
 		if l, e := Split(x.total, x.weights); !slices.Equal(l, x.want) || e != api.OK {
@@ -45,6 +45,9 @@ func TestP10_1(t *testing.T) {
 
 func TestP10_2(t *testing.T) {
 	if l, e := Even(7, 3); !slices.Equal(l, []int64{3, 2, 2}) || e != api.OK {
+		t.Error(l, e)
+	}
+	if l, e := Even(7, 1); !slices.Equal(l, []int64{7}) || e != api.OK {
 		t.Error(l, e)
 	}
 	if l, e := Even(4099, 4096); len(l) != 4096 || l[2] != 2 || l[3] != 1 || e != api.OK {

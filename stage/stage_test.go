@@ -61,8 +61,12 @@ func TestP17_1(t *testing.T) {
 			t.Error(bad, e, e2)
 		}
 	}
-	if _, e := New(many(32)); e != api.OK {
-		t.Error(e)
+	for _, k := range []int{1, 32} {
+		x, e := New(many(k))
+		if e != api.OK {
+			t.Error(k, e)
+		}
+		do(t, x.Put(k-1, l(n(5))), api.OK)
 	}
 	given := schemas()
 	x, _ := New(given)

@@ -100,9 +100,14 @@ func TestP1_3(t *testing.T) {
 		}
 	}
 	for _, s := range l {
-		if got, rest, is := TakeText(Text(s) + "z"); got != s || rest != "z" || !is {
-			t.Error(got, rest, is)
+		for _, follows := range []string{"", "z"} {
+			if got, rest, is := TakeText(Text(s) + follows); got != s || rest != follows || !is {
+				t.Error(got, rest, is)
+			}
 		}
+	}
+	if got, rest, is := TakeRow(Row([]string{"", ""})); len(got) != 2 || rest != "" || !is {
+		t.Error(got, rest, is)
 	}
 	for i := range 1 << 16 { // no two encodings
 		b := string([]byte{byte(i >> 8), byte(i)})

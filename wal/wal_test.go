@@ -86,6 +86,13 @@ func TestP6_1(t *testing.T) {
 	if s, _ := d.Read(16); strings.Trim(s, "\x00") != "" {
 		t.Error("a sector of no half")
 	}
+	for _, put := range []func(*Wal, []string) api.Errno{(*Wal).Commit, (*Wal).Save} {
+		d := disk(t, 16)
+		do(t, put(open(t, d), []string{"a"}), api.OK)
+		if r, _ := row.Open(d, 0, 8); r.First() != 1 {
+			t.Error("a blank log does not begin in the first half")
+		}
+	}
 }
 
 // TestP6_1Halves lays sheaves into the halves by hand.
